@@ -1,0 +1,1 @@
+"""A room's acoustics: what is left of a path in each of four bands."""
