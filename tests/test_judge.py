@@ -1,10 +1,9 @@
 """Tests of judge: "Books", and "The calls", its head and point 1."""
 
-import contextlib
 import inspect
-import io
 import unittest
 
+from tests.handing import check_answer, check_call_by_itself
 from wallbands.rooms import judge
 
 MOST = 32768
@@ -24,23 +23,9 @@ def book_with(changes):
     return book
 
 
-class UnchangeableList(list):
-    """A list that refuses each change, so that one that is taken back is seen too."""
-
-    def refuse(self, *args, **kwargs):
-        raise AssertionError("what is handed in was changed")
-
-    append = clear = extend = insert = pop = remove = reverse = sort = refuse
-    __setitem__ = __delitem__ = __iadd__ = __imul__ = refuse
-
-
 class JudgeTest(unittest.TestCase):
     def check(self, book, answer):
-        given = judge(book)
-        self.assertEqual(given, answer)
-        self.assertIs(type(given), list)
-        for number in given:
-            self.assertIs(type(number), int)
+        check_answer(self, judge(book), answer)
 
     def test_book_in_order(self):
         self.check(book_in_order(), [0])
@@ -97,34 +82,16 @@ class JudgeTest(unittest.TestCase):
 
 
 class CallByItselfTest(unittest.TestCase):
-    def books(self):
-        return [
-            book_in_order(),
-            [],
-            [0] * 35,
-            [32769] * 37,
-            book_with({0: 32769}),
-            book_with({20: 18446744073709551615, 21: 32769}),
-            [MOST] * 36,
-        ]
-
-    def test_list_is_the_same_as_before(self):
-        for book in self.books():
-            before = list(book)
-            judge(book)
-            self.assertEqual(book, before)
-
-    def test_list_is_not_changed_for_a_while_either(self):
-        for book in self.books():
-            self.assertEqual(judge(UnchangeableList(book)), judge(book))
-
-    def test_second_call_answers_as_the_first(self):
-        first = [judge(book) for book in self.books()]
-        second = [judge(book) for book in self.books()]
-        backwards = [judge(book) for book in reversed(self.books())]
-        self.assertEqual(first, [[0], [-6, 0], [-6, 35], [-6, 37], [-6, 0], [-6, 20], [0]])
-        self.assertEqual(second, first)
-        self.assertEqual(backwards, first[::-1])
+    def test_by_itself(self):
+        check_call_by_itself(self, judge, [
+            (book_in_order(),),
+            ([],),
+            ([0] * 35,),
+            ([32769] * 37,),
+            (book_with({0: 32769}),),
+            (book_with({20: 18446744073709551615, 21: 32769}),),
+            ([MOST] * 36,),
+        ])
 
     def test_same_list_is_looked_at_anew(self):
         book = book_in_order()
@@ -133,22 +100,6 @@ class CallByItselfTest(unittest.TestCase):
         self.assertEqual(judge(book), [-6, 5])
         book.append(0)
         self.assertEqual(judge(book), [-6, 37])
-
-    def test_answer_that_is_changed_leaves_the_next_alone(self):
-        for book in self.books():
-            answer = judge(book)
-            expected = list(answer)
-            answer.append(99)
-            answer[0] = 1
-            self.assertEqual(judge(book), expected)
-
-    def test_nothing_is_printed(self):
-        out = io.StringIO()
-        err = io.StringIO()
-        with contextlib.redirect_stdout(out), contextlib.redirect_stderr(err):
-            for book in self.books():
-                judge(book)
-        self.assertEqual((out.getvalue(), err.getvalue()), ("", ""))
 
 
 if __name__ == "__main__":

@@ -82,6 +82,19 @@ def top_names(tree):
     return names
 
 
+def imported_names(tree):
+    """Of each name that is imported the module, without the package, and the name."""
+    for node in tree.body:
+        if isinstance(node, ast.ImportFrom):
+            for alias in node.names:
+                yield node.module.partition(".")[2], alias.name
+
+
+def defined_names(tree):
+    """The names that a file's top binds itself."""
+    return set(top_names(tree)) - {word for module, word in imported_names(tree)}
+
+
 class LanguageTest(unittest.TestCase):
     def test_files(self):
         self.assertTrue((PACKAGE / "__init__.py").is_file())
@@ -150,6 +163,21 @@ class LanguageTest(unittest.TestCase):
                         self.assertIn(node, tree.body, "L2")
                         self.assertEqual(node.level, 0, "L2")
                         self.assertEqual(node.module.split(".")[0], "wallbands", "L2, L16")
+
+    def test_imports_come_from_where_the_name_is_defined(self):
+        trees = {name[:-3]: tree for name, text, tree in read_files()}
+        for name, tree in trees.items():
+            for module, word in imported_names(tree):
+                with self.subTest(file=name, name=word):
+                    self.assertIn(word, defined_names(trees[module]), "L16")
+        self.assertEqual(list(imported_names(trees["__init__"])), [], "L16")
+
+    def test_no_two_files_draw_from_one_another(self):
+        drawn = {name[:-3]: {module for module, word in imported_names(tree)} for name, text, tree in read_files()}
+        while drawn:
+            free = {name for name, modules in drawn.items() if not modules & set(drawn)}
+            self.assertTrue(free, f"L16 {drawn}")
+            drawn = {name: modules for name, modules in drawn.items() if name not in free}
 
     def test_top_of_a_file(self):
         for name, text, tree in read_files():

@@ -1,21 +1,20 @@
 """The calls of wallbands. Each is by itself: nothing is kept between two of them."""
 
+from wallbands.books import BANDS
+from wallbands.books import find_book_fault
+from wallbands.books import find_gain
+from wallbands.plans import count_walls
+from wallbands.plans import find_room_fault
+from wallbands.plans import find_stuff
+
 FINE = 0
+OUT_OF_RANGE = -1
+TOO_LONG = -4
+NO_ROOM = -5
 NO_BOOK = -6
 
-BOOK_LENGTH = 36
-WHOLE_PART = 32768
-
-
-def find_book_fault(book):
-    """The book's fault, or None if it is a book."""
-    # None says "no fault", since 0 is a fault: no numbers at all, or the first one too great.
-    if len(book) != BOOK_LENGTH:
-        return len(book)
-    for place, part in enumerate(book):
-        if part > WHOLE_PART:
-            return place
-    return None
+MOST_TURNS = 4
+GREATEST_LENGTH2 = 1099511627776
 
 
 def judge(book):
@@ -24,3 +23,32 @@ def judge(book):
     if fault is None:
         return [FINE]
     return [NO_BOOK, fault]
+
+
+def refuse_room_or_book(room, book):
+    """The refusal of what is no room or no book, or None if they are."""
+    room_fault = find_room_fault(room)
+    if room_fault is not None:
+        return [NO_ROOM, room_fault[0], room_fault[1]]
+    book_fault = find_book_fault(book)
+    if book_fault is not None:
+        return [NO_BOOK, book_fault]
+    return None
+
+
+def are_walls(room, walls):
+    """Whether these are walls of the room and not too many for a path."""
+    return len(walls) <= MOST_TURNS and all([wall < count_walls(room) for wall in walls])
+
+
+def gains(length2, room, book, walls):
+    """[0, of each band the gain of a path of that length squared by those walls], or a refusal."""
+    refusal = refuse_room_or_book(room, book)
+    if refusal is not None:
+        return refusal
+    if not are_walls(room, walls):
+        return [OUT_OF_RANGE]
+    if length2 > GREATEST_LENGTH2:
+        return [TOO_LONG]
+    stuffs = [find_stuff(room, wall) for wall in walls]
+    return [FINE] + [find_gain(length2, book, stuffs, band) for band in range(BANDS)]
