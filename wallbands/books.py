@@ -8,6 +8,9 @@ AIR_PLACE = 32
 AIR_STEP = 1024
 GREATEST_GAIN = 4294967296
 
+WHOLE_GAIN = 16777216
+NO_LEVEL = -100000
+
 
 def find_book_fault(book):
     """The book's fault, or None if it is a book."""
@@ -50,3 +53,13 @@ def find_gain(length2, book, stuffs, band):
     # It is doubled, for only then rounding down still tells on which side of the middle it lies.
     doubled = find_root(4 * left * left // (max(length2, 1) * whole * whole))
     return (doubled + 1) // 2
+
+
+def find_level(gain):
+    """20 times the logarithm (to 10) of the gain over 2^24, rounded down; of gain 0, which has none, -100,000."""
+    if gain == 0:
+        return NO_LEVEL
+    # To the power of 20 the level is the plain logarithm of a fraction, and no root is taken. The 10^8 keeps
+    # the fraction above 1 and adds 160 to its logarithm; a number's digits tell how many tens are in it.
+    fraction = (gain * 10 ** 8) ** 20 // WHOLE_GAIN ** 20
+    return len(str(fraction)) - 1 - 160

@@ -3,6 +3,7 @@
 from wallbands.books import BANDS
 from wallbands.books import find_book_fault
 from wallbands.books import find_gain
+from wallbands.books import find_level
 from wallbands.plans import count_walls
 from wallbands.plans import find_room_fault
 from wallbands.plans import find_stuff
@@ -15,6 +16,7 @@ NO_BOOK = -6
 
 MOST_TURNS = 4
 GREATEST_LENGTH2 = 1099511627776
+TOO_GREAT_GAIN = 18446744073709551616
 
 
 def judge(book):
@@ -52,3 +54,10 @@ def gains(length2, room, book, walls):
         return [TOO_LONG]
     stuffs = [find_stuff(room, wall) for wall in walls]
     return [FINE] + [find_gain(length2, book, stuffs, band) for band in range(BANDS)]
+
+
+def levels(gains):
+    """[0, of each gain its level], or [-1] if one of them is too great."""
+    if any([gain >= TOO_GREAT_GAIN for gain in gains]):
+        return [OUT_OF_RANGE]
+    return [FINE] + [find_level(gain) for gain in gains]
