@@ -6,6 +6,14 @@ TRIANGLE = [(0, 0), (200, 0), (0, 200)]
 OCTAGON = [(100, 0), (200, 0), (300, 100), (300, 200), (200, 300), (100, 300), (0, 200), (0, 100)]
 # Six side walls, so that with floor and ceiling each stuff has a wall of its own.
 ANGLE = [(0, 0), (300, 0), (300, 100), (100, 100), (100, 200), (0, 200)]
+# A slab reaches in from the left: walls 4 and 6 are its two sides, the room goes round its end, wall 5.
+SLAB = [(0, 0), (100, 0), (100, 100), (0, 100), (0, 60), (60, 60), (60, 40), (0, 40)]
+
+# Rooms as lists: two squares, one without and one with unlike stuffs, an angle, and a room with slanting lines.
+S = [100, 0, 0, 0, 0, 0, 200, 0, 0, 200, 200, 0, 0, 200, 0]
+T = [100, 0, 1, 0, 0, 2, 200, 0, 3, 200, 200, 4, 0, 200, 5]
+L = [100, 0, 1, 0, 0, 2, 200, 0, 3, 200, 100, 4, 100, 100, 5, 100, 200, 6, 0, 200, 7]
+D = [60, 1, 2, 0, 50, 3, 50, 0, 4, 150, 0, 5, 200, 50, 6, 200, 150, 7, 150, 200, 0, 50, 200, 1, 0, 150, 2]
 
 
 def make_room(corners, stuffs=None, head=(100, 0, 0)):

@@ -5,21 +5,18 @@ import itertools
 import random
 import unittest
 
+from tests.books import B, C, make_book
 from tests.handing import check_answer, check_call_by_itself
-from tests.plans import ANGLE, OCTAGON, SQUARE, TRIANGLE
+from tests.plain_gains import MOST, WHOLE, fraction, is_nearest
+from tests.plans import ANGLE, OCTAGON, S, SQUARE, T, TRIANGLE
 from tests.plans import make_comb, make_room, make_saw
+from tests.refused import BOOKS, ROOMS, first_refusal
 from wallbands.rooms import gains
 
-S = [100, 0, 0, 0, 0, 0, 200, 0, 0, 200, 200, 0, 0, 200, 0]
-R = [100, 0, 1, 0, 0, 2, 200, 0, 3, 200, 200, 4, 0, 200, 5]
-B = [32768] * 36
-C = [911 * place % 32769 for place in range(36)]
 # Each stuff has one wall: the sides 0 to 5, the floor 6, the ceiling 7; its stuff is not its number.
 EACH_STUFF = make_room(ANGLE, [7, 6, 5, 4, 3, 2], (100, 1, 0))
 STUFF_OF_WALL = [7, 6, 5, 4, 3, 2, 1, 0]
 
-MOST = 32768
-WHOLE = 2**32
 LONGEST = 2**40
 LARGEST = 18446744073709551615
 LENGTHS = sorted(
@@ -27,31 +24,6 @@ LENGTHS = sorted(
     | {(1024 * k)**2 + d for k in (1, 2, 3, 4, 31, 1023) for d in (-1, 0, 1)}
     | {1025**2, 2047**2, 3 * 1024**2, 10**6, 10**9, 10**12}
 )
-
-
-def make_book(stuffs, air):
-    """A book that says the same of all bands: what comes back of each of eight stuffs, and what the air leaves."""
-    return [part for part in list(stuffs) + [air] for band in range(4)]
-
-
-def fraction(length2, book, stuffs, band):
-    """Numerator and denominator of the gain's square, before it is rounded: the fraction itself has a root."""
-    square = max(length2, 1)
-    steps = 0
-    while (1024 * (steps + 1))**2 <= square:
-        steps += 1
-    over = WHOLE * book[32 + band]**steps
-    under = MOST**(steps + len(stuffs))
-    for stuff in stuffs:
-        over *= book[4 * stuff + band]
-    return over**2, under**2 * square
-
-
-def is_nearest(gain, over, under):
-    """Whether the gain is the whole number nearest to the root of over by under, of two as near the greater."""
-    # gain - 1/2 <= root < gain + 1/2, doubled and squared.
-    reaches = gain == 0 or (2 * gain - 1)**2 * under <= 4 * over
-    return reaches and 4 * over < (2 * gain + 1)**2 * under
 
 
 class GainsTest(unittest.TestCase):
@@ -73,7 +45,7 @@ class ToldTest(GainsTest):
 
     def test_arguments(self):
         self.assertEqual(list(inspect.signature(gains).parameters), ["length2", "room", "book", "walls"])
-        self.assertEqual(gains(length2=4194304, room=R, book=C, walls=[0, 4]), [0, 0, 12279, 28966, 50647])
+        self.assertEqual(gains(length2=4194304, room=T, book=C, walls=[0, 4]), [0, 0, 12279, 28966, 50647])
 
     def test_nothing_lost(self):
         self.check(0, S, B, [], [0] + [4294967296] * 4)
@@ -83,9 +55,9 @@ class ToldTest(GainsTest):
         self.check(65536, S, B, [0, 3, 4, 5], [0] + [16777216] * 4)
 
     def test_book_in_order(self):
-        self.check(1048575, R, C, [], [0, 4194306, 4194306, 4194306, 4194306])
-        self.check(1048576, R, C, [], [0, 3731456, 3848064, 3964672, 4081280])
-        self.check(4194304, R, C, [0, 4], [0, 0, 12279, 28966, 50647])
+        self.check(1048575, T, C, [], [0, 4194306, 4194306, 4194306, 4194306])
+        self.check(1048576, T, C, [], [0, 3731456, 3848064, 3964672, 4081280])
+        self.check(4194304, T, C, [0, 4], [0, 0, 12279, 28966, 50647])
 
     def test_longest(self):
         self.check(1099511627776, S, B, [], [0, 4096, 4096, 4096, 4096])
@@ -323,28 +295,15 @@ class BookFaultTest(GainsTest):
 class OrderTest(GainsTest):
     """The refusals in their order, whatever else is to be refused."""
 
-    ROOMS = [
-        ([], [-5, 1, 0]),
-        (S[:9], [-5, 1, 0]),
-        (make_room(make_saw(66)), [-5, 1, 0]),
-        ([0] + S[1:], [-5, 2, 0]),
-        (S[:8] + [8] + S[9:], [-5, 3, 1]),
-        (make_room([(0, 0), (200, 100), (200, 200), (0, 200)]), [-5, 4, 0]),
-        (make_room([(100, 0), (200, 0), (200, 200), (0, 200), (0, 0)]), [-5, 5, 4]),
-        (make_room([(0, 0), (200, 200), (200, 0), (0, 200)]), [-5, 6, 0]),
-        (make_room([(0, 0), (0, 200), (200, 200), (200, 0)]), [-5, 7, 0]),
-        (S, None),
-    ]
-    BOOKS = [([], [-6, 0]), (B[:35], [-6, 35]), (B[:7] + [MOST + 1] + B[8:], [-6, 7]), (B, None)]
     WALLS = [([0] * 5, [-1]), ([0] * 20, [-1]), ([6], [-1]), ([0, LARGEST], [-1]), ([], None), ([5, 0, 4, 3], None)]
     FAR = [(LONGEST + 1, [-4]), (LARGEST, [-4]), (0, None), (LONGEST, None)]
 
     def test_every_two_three_and_four_together(self):
-        for room, book, walls, length2 in itertools.product(self.ROOMS, self.BOOKS, self.WALLS, self.FAR):
-            refusals = [told[1] for told in (room, book, walls, length2) if told[1]]
+        for room, book, walls, length2 in itertools.product(ROOMS, BOOKS, self.WALLS, self.FAR):
+            refusal = first_refusal(room, book, walls, length2)
             given = gains(length2[0], room[0], book[0], walls[0])
-            if refusals:
-                check_answer(self, given, refusals[0])
+            if refusal:
+                check_answer(self, given, refusal)
             else:
                 self.assertEqual((len(given), given[0]), (5, 0))
 
@@ -358,7 +317,7 @@ class OrderTest(GainsTest):
 class CallByItselfTest(unittest.TestCase):
     def test_by_itself(self):
         check_call_by_itself(self, gains, [
-            (4194304, R, C, [0, 4]),
+            (4194304, T, C, [0, 4]),
             (0, S, B, []),
             (LONGEST, EACH_STUFF, C, [7, 6, 0, 1]),
             (LONGEST + 1, S, B, []),

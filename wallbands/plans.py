@@ -95,6 +95,29 @@ def lines_meet(first, second):
     return reaches_across(first, second) and reaches_across(second, first)
 
 
+def is_crossed_ahead(line, point):
+    """Whether the way from the point along x, drawn on without end, crosses the line."""
+    # Of two lines that meet at a corner level with the point just the one counts that goes up from there.
+    if line[0][1] <= point[1] < line[1][1]:
+        return find_side(line[0], line[1], point) > 0
+    if line[1][1] <= point[1] < line[0][1]:
+        return find_side(line[0], line[1], point) < 0
+    return False
+
+
+def is_within(corners, point):
+    """Whether the point of the plan is strictly within the lines: on none of them."""
+    lines = [find_ends(corners, line) for line in range(len(corners))]
+    if any([lines_meet(line, (point, point)) for line in lines]):
+        return False
+    return len([line for line in lines if is_crossed_ahead(line, point)]) % 2 == 1
+
+
+def is_inside(room, point):
+    """Whether the point is inside: within the lines, above the floor and below the ceiling."""
+    return 0 < point[2] < room[0] and is_within(list_corners(room), point)
+
+
 def meets_a_later_line(corners, line):
     """Whether the line has a point in common with a later one that isn't its neighbour."""
     # Earlier ones need no look: the earlier of the two is the one that is told.

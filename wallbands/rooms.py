@@ -4,12 +4,15 @@ from wallbands.books import BANDS
 from wallbands.books import find_book_fault
 from wallbands.books import find_gain
 from wallbands.books import find_level
+from wallbands.paths import find_paths
 from wallbands.plans import count_walls
 from wallbands.plans import find_room_fault
 from wallbands.plans import find_stuff
+from wallbands.plans import is_inside
 
 FINE = 0
 OUT_OF_RANGE = -1
+NOT_INSIDE = -3
 TOO_LONG = -4
 NO_ROOM = -5
 NO_BOOK = -6
@@ -43,6 +46,11 @@ def are_walls(room, walls):
     return len(walls) <= MOST_TURNS and all([wall < count_walls(room) for wall in walls])
 
 
+def find_gain_by_walls(length2, room, book, walls, band):
+    """The gain in that band of a path of that length squared by those walls."""
+    return find_gain(length2, book, [find_stuff(room, wall) for wall in walls], band)
+
+
 def gains(length2, room, book, walls):
     """[0, of each band the gain of a path of that length squared by those walls], or a refusal."""
     refusal = refuse_room_or_book(room, book)
@@ -52,8 +60,7 @@ def gains(length2, room, book, walls):
         return [OUT_OF_RANGE]
     if length2 > GREATEST_LENGTH2:
         return [TOO_LONG]
-    stuffs = [find_stuff(room, wall) for wall in walls]
-    return [FINE] + [find_gain(length2, book, stuffs, band) for band in range(BANDS)]
+    return [FINE] + [find_gain_by_walls(length2, room, book, walls, band) for band in range(BANDS)]
 
 
 def levels(gains):
@@ -61,3 +68,33 @@ def levels(gains):
     if any([gain >= TOO_GREAT_GAIN for gain in gains]):
         return [OUT_OF_RANGE]
     return [FINE] + [find_level(gain) for gain in gains]
+
+
+def refuse_way(room, book, is_in_range, start, end):
+    """The refusal of what paths can't be looked for in, or None; whether the other numbers are in range is told."""
+    refusal = refuse_room_or_book(room, book)
+    if refusal is not None:
+        return refusal
+    if not is_in_range:
+        return [OUT_OF_RANGE]
+    if not (is_inside(room, start) and is_inside(room, end)):
+        return [NOT_INSIDE]
+    return None
+
+
+def add_energies(paths, room, book, band):
+    """The energy of the paths' gains in that band."""
+    told = [find_gain_by_walls(path[0], room, book, path[1], band) for path in paths]
+    return sum([gain * gain for gain in told])
+
+
+def energy(x, y, z, u, v, t, most, from_length, to_length, room, book):
+    """[0, of each band the energy of the paths whose length squared is in that range], or a refusal."""
+    start = (x, y, z)
+    end = (u, v, t)
+    refusal = refuse_way(room, book, most <= MOST_TURNS, start, end)
+    if refusal is not None:
+        return refusal
+    found = find_paths(room, start, end, most)
+    paths = [path for path in found if from_length <= path[0] < to_length]
+    return [FINE] + [add_energies(paths, room, book, band) for band in range(BANDS)]
