@@ -12,6 +12,7 @@ from wallbands.plans import is_inside
 
 FINE = 0
 OUT_OF_RANGE = -1
+NO_PATH = -2
 NOT_INSIDE = -3
 TOO_LONG = -4
 NO_ROOM = -5
@@ -98,3 +99,23 @@ def energy(x, y, z, u, v, t, most, from_length, to_length, room, book):
     found = find_paths(room, start, end, most)
     paths = [path for path in found if from_length <= path[0] < to_length]
     return [FINE] + [add_energies(paths, room, book, band) for band in range(BANDS)]
+
+
+def rank_path(path, room, book, band):
+    """What is least of the first path with the greatest gain: by the gain, then as paths are in order."""
+    gain = find_gain_by_walls(path[0], room, book, path[1], band)
+    return (-gain, path[0], len(path[1]), path[1])
+
+
+def best(x, y, z, u, v, t, most, band, room, book):
+    """[0, length squared and walls of the first path of those with the greatest gain in that band], or a refusal."""
+    start = (x, y, z)
+    end = (u, v, t)
+    refusal = refuse_way(room, book, most <= MOST_TURNS and band < BANDS, start, end)
+    if refusal is not None:
+        return refusal
+    ranked = [rank_path(path, room, book, band) for path in find_paths(room, start, end, most)]
+    if not ranked:
+        return [NO_PATH]
+    first = min(ranked)
+    return [FINE, first[1]] + first[3]
